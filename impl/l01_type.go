@@ -60,7 +60,7 @@ func SameTy(a Ty, b Ty) bool {
 	if right {
 		return sameRightTy(a, b)
 	}
-	return sameAnyTy(a, b)
+	return sameAnyTys([]twoTys{{a, b}})
 }
 
 func TyNodes(t Ty) int {
@@ -191,17 +191,16 @@ func sameRightTy(a Ty, b Ty) bool {
 type twoTys struct{ a, b Ty }
 
 // partsPair names two lists of n parts by where they lie.
-type partsPair struct {
-	a, b *Ty
+type partsPair[T any] struct {
+	a, b *T
 	n    int
 }
 
-// sameAnyTy keeps what is left to compare in a list, not on the stack, which
+// sameAnyTys keeps what is left to compare in a list, not on the stack, which
 // a deep type would use up; and it looks at each pair of lists once, or it
 // would not end on types that hold themselves.
-func sameAnyTy(a Ty, b Ty) bool {
-	seen := map[partsPair]struct{}{}
-	left := []twoTys{{a, b}}
+func sameAnyTys(left []twoTys) bool {
+	seen := map[partsPair[Ty]]struct{}{}
 	for len(left) > 0 {
 		p := left[len(left)-1]
 		left = left[:len(left)-1]
@@ -212,7 +211,7 @@ func sameAnyTy(a Ty, b Ty) bool {
 		if n == 0 {
 			continue
 		}
-		key := partsPair{&p.a.A[0], &p.b.A[0], n}
+		key := partsPair[Ty]{&p.a.A[0], &p.b.A[0], n}
 		if _, ok := seen[key]; ok {
 			continue
 		}
