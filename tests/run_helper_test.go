@@ -107,6 +107,16 @@ type plainMachine struct {
 // plainRun is what Run and Steps must answer of a right term without free names, written anew.
 func plainRun(t impl.Term, fuel int) (impl.Outcome, int) {
 	m := plainMachine{t: t}
+	end, steps := m.run(fuel)
+	if end.End == impl.EndValue {
+		end.Text = plainShown(m.value)
+	}
+	return end, steps
+}
+
+// plainEnd is plainRun but for the text of a value.
+func plainEnd(t impl.Term, fuel int) (impl.Outcome, int) {
+	m := plainMachine{t: t}
 	return m.run(fuel)
 }
 
@@ -126,7 +136,7 @@ func (m *plainMachine) run(fuel int) (impl.Outcome, int) {
 			}
 		case m.value != nil:
 			if len(m.waits) == 0 {
-				return isValue(plainShown(m.value)), steps
+				return isValue(""), steps
 			}
 			m.goOn()
 		case steps == fuel:

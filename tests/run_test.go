@@ -408,6 +408,29 @@ func TestRunDeep(t *testing.T) {
 	}
 }
 
+// A long text is told whole: no text that memory can hold is too long.
+func TestRunLongTexts(t *testing.T) {
+	for _, c := range []struct{ text, begin, ahead, between, behind string }{
+		{"pair v x 0 v x 0", "1000000", "(", ",", ")"},
+		{"cons v x 0 cons v x 0 nil i", "-1000000", "[", ",", "]"},
+		{"cons v x 0 cons v x 0 nil i", "t", "[", ",", "]"},
+		{"pair v x 0 v x 0", "fn", "(", ",", ")"},
+		{"pair v x 0 v x 0", "[]", "(", ",", ")"},
+		{"pair v x 0 cons v x 0 nil i", "u", "(", ",[", "])"},
+	} {
+		starts := map[string]string{"1000000": "n 1000000", "-1000000": "n -1000000", "t": "t", "u": "u", "fn": "fn x i n 1", "[]": "nil i"}
+		text := filled("fix s 0 f i f i i fn n i fn x i if op < v n 0 n 1 v x 0 app app v s 0 op - v n 0 n 1 # app app v s 0 n 23 #", c.text, starts[c.begin])
+		want := c.begin
+		for range 23 {
+			want = c.ahead + want + c.between + want + c.behind
+		}
+		got := impl.Run(parsedTerm(t, text), impl.MaxFuel)
+		if got.End != impl.EndValue || got.N != 0 || got.Text != want {
+			t.Error("a long text", text, got.End, got.N, len(got.Text), len(want))
+		}
+	}
+}
+
 // A value may share its parts so often that its text is beyond any memory: that ends, too, and the same way with more fuel.
 func TestRunTextsBeyondAllMemory(t *testing.T) {
 	for _, text := range []string{
@@ -418,17 +441,36 @@ func TestRunTextsBeyondAllMemory(t *testing.T) {
 		for n := range 12 {
 			asPlain(t, parsedTerm(t, filled(text, strconv.Itoa(n))), impl.MaxFuel)
 		}
-		big := impl.Run(parsedTerm(t, filled(text, "18")), impl.MaxFuel)
-		if big.End != impl.EndValue || len(big.Text) < 1<<18 {
-			t.Error("a long text", big.End, len(big.Text))
-		}
-		for _, n := range []string{"40", "900"} {
+		for _, n := range []string{"60", "900"} {
 			term := parsedTerm(t, filled(text, n))
+			_, steps := plainEnd(term, impl.MaxFuel)
 			for _, fuel := range []int{100, 10000, impl.MaxFuel - 1, impl.MaxFuel} {
 				if got := impl.Run(term, fuel); got != isFuel {
 					t.Error("a text without end", n, fuel, got.End, got.N, len(got.Text))
 				}
+				if took := impl.Steps(term, fuel); took != min(fuel, steps) {
+					t.Error("a text without end", n, fuel, took, steps)
+				}
 			}
+		}
+	}
+}
+
+// A value whose text is beyond any memory may still be a part of what has a short one.
+func TestRunShortTextsOfGreatValues(t *testing.T) {
+	grow := "let x 0 app app fix s 0 f i f i i fn n i fn x i if op < v n 0 n 1 v x 0 app app v s 0 op - v n 0 n 1 pair v x 0 v x 0 v s 0 n 200 n 0 "
+	for text, want := range map[string]string{
+		"fst pair n 1 v x 0":                       "1",
+		"case a b cons v x 0 nil i n 1 n 2":        "2",
+		"case a b cons v x 0 nil i n 1 v b 0":      "[]",
+		"let y 0 fst v x 0 fn z i v y 0":           "fn",
+		"try e raise i v x 0 v e 0":                "-2",
+		"pair fst pair n 4 v x 0 fn z i v x 0":     "(4,fn)",
+		"cons n 3 snd pair cons v x 0 nil i nil i": "[3]",
+	} {
+		asPlain(t, parsedTerm(t, grow+text), impl.MaxFuel)
+		if got := impl.Run(parsedTerm(t, grow+text), impl.MaxFuel); got != isValue(want) {
+			t.Error(text, got.End, got.N, len(got.Text), want)
 		}
 	}
 }
