@@ -69,6 +69,15 @@ type plainCode int
 
 // plainCheck is what TypeOf must answer of a right term, written anew: types are texts, names a list, a fault a panic.
 func plainCheck(t impl.Term) (ty string, code int) {
+	return plainTypes{}.checked(t)
+}
+
+// plainUnsized is plainCheck, but a type may be as big as it likes.
+func plainUnsized(t impl.Term) (ty string, code int) {
+	return plainTypes{unsized: true}.checked(t)
+}
+
+func (p plainTypes) checked(t impl.Term) (ty string, code int) {
 	defer func() {
 		switch c := recover().(type) {
 		case nil:
@@ -78,7 +87,7 @@ func plainCheck(t impl.Term) (ty string, code int) {
 			panic(c)
 		}
 	}()
-	return plainTypes{}.of(t), impl.CheckGood
+	return p.of(t), impl.CheckGood
 }
 
 func plainAsk(ok bool, code int) {
@@ -87,21 +96,23 @@ func plainAsk(ok bool, code int) {
 	}
 }
 
-// plainTypes are the names, the innermost first, and how many type variables there are, where a term stands.
+// plainTypes are the names, the innermost first, and how many type variables there are, where a term stands; unsized ones may be of any size.
 type plainTypes struct {
-	names []plainBinder
-	vars  int
+	names   []plainBinder
+	vars    int
+	unsized bool
 }
 
 func (p plainTypes) with(name, ty string, vars int) plainTypes {
-	return plainTypes{append([]plainBinder{{name, ty, vars}}, p.names...), p.vars}
+	p.names = append([]plainBinder{{name, ty, vars}}, p.names...)
+	return p
 }
 
 func (p plainTypes) reaching(vars int) plainTypes {
-	if vars == 0 {
-		return p
+	if vars > 0 {
+		p.vars = vars
 	}
-	return plainTypes{p.names, vars}
+	return p
 }
 
 // standing is the text of a type that stands in a term.
@@ -121,10 +132,10 @@ func (p plainTypes) of(t impl.Term) string {
 	case impl.TmVar:
 		return p.ofVar(t)
 	case impl.TmNil:
-		return plainSized("l " + p.standing(t.T))
+		return p.sized("l " + p.standing(t.T))
 	case impl.TmFn:
 		ty := p.standing(t.T)
-		return plainSized("f " + ty + " " + p.with(t.S, ty, 0).of(t.A[0]))
+		return p.sized("f " + ty + " " + p.with(t.S, ty, 0).of(t.A[0]))
 	case impl.TmLet:
 		plainAsk(t.N == 0 || p.vars == 0 && slices.Contains([]int{1, 2, 3, 4, 12}, t.A[0].K), impl.CheckPoly)
 		return p.with(t.S, p.reaching(t.N).of(t.A[0]), t.N).of(t.A[1])
@@ -155,7 +166,7 @@ func (p plainTypes) of(t impl.Term) string {
 	for _, a := range t.A {
 		parts = append(parts, p.of(a))
 	}
-	return plainOfParts(t, parts)
+	return p.ofParts(t, parts)
 }
 
 func (p plainTypes) ofVar(t impl.Term) string {
@@ -170,11 +181,11 @@ func (p plainTypes) ofVar(t impl.Term) string {
 	if b.vars == 0 {
 		return b.ty
 	}
-	return plainSized(putInText(b.ty, puts))
+	return p.sized(putInText(b.ty, puts))
 }
 
-// plainOfParts is of the kinds that bind nothing and have no type of their own.
-func plainOfParts(t impl.Term, parts []string) string {
+// ofParts is of the kinds that bind nothing and have no type of their own.
+func (p plainTypes) ofParts(t impl.Term, parts []string) string {
 	ask := func(ok bool) { plainAsk(ok, impl.CheckType) }
 	switch t.K {
 	case impl.TmApp:
@@ -185,7 +196,7 @@ func plainOfParts(t impl.Term, parts []string) string {
 		ask(parts[0] == "b" && parts[1] == parts[2])
 		return parts[1]
 	case impl.TmPair:
-		return plainSized("p " + parts[0] + " " + parts[1])
+		return p.sized("p " + parts[0] + " " + parts[1])
 	case impl.TmFst:
 		return plainWithin(parts[0], "p")[0]
 	case impl.TmSnd:
@@ -235,9 +246,9 @@ func plainTyDepth(ty string) int {
 	return depth + 1
 }
 
-// plainSized refuses a type that is too deep or has too many nodes.
-func plainSized(ty string) string {
-	plainAsk(plainTyDepth(ty) <= 6 && len(strings.Fields(ty)) <= 60, impl.CheckType)
+// sized refuses a type that is too deep or has too many nodes.
+func (p plainTypes) sized(ty string) string {
+	plainAsk(p.unsized || plainTyDepth(ty) <= 6 && len(strings.Fields(ty)) <= 60, impl.CheckType)
 	return ty
 }
 
