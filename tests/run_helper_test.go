@@ -102,6 +102,9 @@ type plainMachine struct {
 	n     int
 	// wrong is how often a part was not what is wanted.
 	wrong int
+	// met is told each call: the call's parts and those of the function that is called. With it a TmFix is begun twice.
+	met   func(call, fn *impl.Term)
+	begun bool
 }
 
 // plainRun is what Run and Steps must answer of a right term without free names, written anew.
@@ -215,6 +218,10 @@ func (m *plainMachine) begin() {
 	case impl.TmFn:
 		m.value = &plainValue{kind: 'f', fn: t, env: env}
 	case impl.TmFix:
+		m.begun = !m.begun
+		if m.met != nil && m.begun {
+			return
+		}
 		own := &plainValue{kind: 'f', fn: t.A[0]}
 		own.env = plainWith(env, t.S, own)
 		m.eval(t.A[1], own.env)
@@ -291,6 +298,9 @@ func (m *plainMachine) whole(t impl.Term, got []*plainValue) {
 	switch t.K {
 	case impl.TmApp:
 		fn := got[0]
+		if m.met != nil {
+			m.met(&t.A[0], &fn.fn.A[0])
+		}
 		m.eval(fn.fn.A[0], plainWith(fn.env, fn.fn.S, got[1]))
 	case impl.TmPair:
 		m.value = &plainValue{kind: 'p', a: got[0], b: got[1]}
