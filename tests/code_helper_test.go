@@ -401,18 +401,24 @@ type codeWalker struct {
 	begun, deep int
 	// noCase is how often a call had no case for its record, wrong how often something was not what is wanted, loose how often a list was put ahead of what is no list; caught is how often a raise went on at a To.
 	noCase, wrong, loose, caught int
+	// ahead is told of each instruction ahead of it: its place, the registers, and the places of the OpTrys that are not over.
+	ahead func(p impl.Piece, at int, regs map[int]*codeValue, open []int)
 }
 
 // plainRunCode is what RunCode must answer of a right Code, written anew, and how much of the fuel it takes.
 func plainRunCode(c impl.Code, fuel int) (impl.Outcome, *codeWalker) {
 	w := &codeWalker{code: c, fuel: fuel}
-	switch end := w.piece(c.Main, nil); end.over {
+	return w.run(), w
+}
+
+func (w *codeWalker) run() impl.Outcome {
+	switch end := w.piece(w.code.Main, nil); end.over {
 	case 'r':
-		return isRaise(end.n), w
+		return isRaise(end.n)
 	case 'f':
-		return isFuel, w
+		return isFuel
 	default:
-		return isValue(codeShown(end.v)), w
+		return isValue(codeShown(end.v))
 	}
 }
 
@@ -433,6 +439,9 @@ func (w *codeWalker) piece(p impl.Piece, in []*codeValue) codeEnd {
 			return codeEnd{over: 'f'}
 		}
 		w.steps++
+		if w.ahead != nil {
+			w.ahead(p, at, regs, open)
+		}
 		i := p.Ins[at]
 		if i.Op == 15 {
 			return codeEnd{v: codeRead(regs, i.X)}
