@@ -2,6 +2,7 @@ package tests
 
 import (
 	"fmt"
+	"math"
 	"math/rand"
 	"slices"
 	"strconv"
@@ -368,6 +369,53 @@ func livedNowhere(t *testing.T, why string, p impl.Piece, faults string) {
 	for _, live := range [][][]int{nil, {}, make([][]int, len(p.Ins)), allRegisters(p), {{}}, {{0}}} {
 		liveIs(t, why, p, live, "piece")
 	}
+}
+
+// triedText is a right Piece with an OpTry, as toldPiece reads it.
+const triedText = "2 5: try 2 6; add 3 0 1; end; move 4 3; jump 7; num 1 1; move 4 2; ret 4"
+
+// wrongPiece is a Piece that is not right, and the one condition that it breaks.
+type wrongPiece struct {
+	why    string
+	p      impl.Piece
+	faults string
+}
+
+// wrongPieces break each condition of a right Piece, each one alone.
+func wrongPieces() []wrongPiece {
+	ret := toldList("ret 0")
+	all := []wrongPiece{
+		{"In -1", impl.Piece{In: -1, Regs: 1, Ins: ret}, "in"}, {"In past Regs", impl.Piece{In: 2, Regs: 1, Ins: ret}, "regs"}, {"In 401", impl.Piece{In: 401, Regs: 401, Ins: ret}, "regs"}, {"Regs 401", impl.Piece{Regs: 401, Ins: ret}, "regs"}, {"Regs -1", impl.Piece{Regs: -1, Ins: toldList("jump 0")}, "regs"}, {"Regs far too great", impl.Piece{Regs: math.MaxInt, Ins: ret}, "regs"},
+		{"In far too little", impl.Piece{In: math.MinInt, Regs: 1, Ins: ret}, "in"}, {"no Ins", impl.Piece{In: 1, Regs: 1}, "no ins"}, {"no Ins", impl.Piece{In: 1, Regs: 1, Ins: []impl.Ins{}}, "no ins"}, {"601 Ins", impl.Piece{Regs: 1, Ins: slices.Repeat(ret, 601)}, "many ins"}, {"very many Ins", impl.Piece{Regs: 1, Ins: slices.Repeat(ret, 5000)}, "many ins"},
+	}
+	for text, faults := range map[string]string{
+		// the last one
+		"0 1: num 0 1": "last", "0 1: ret 0; num 0 1": "last", "0 1: raise 0": "last", "0 1: ifnot 0 0": "last", "0 1: end": "last", "0 1: try 0 0": "last", "0 1: call 0 0 0": "last",
+		// registers
+		"0 1: num 1 0; ret 0": "register D", "0 1: num -1 0; ret 0": "register D", "0 1: try 1 1; ret 0": "register D", "0 1: ret 1": "register X", "0 1: ret -1": "register X", "0 1: move 0 1; ret 0": "register X", "0 1: raise 7; ret 0": "register X", "0 1: ifnot 1 0; ret 0": "register X", "0 1: pair 0 0 1; ret 0": "register Y", "0 1: call 0 0 -1; ret 0": "register Y", "0 1: make 0 9 1; ret 0": "register L", "0 1: make 0 9 0 -1 0; ret 0": "register L", "0 0: ret 0": "register X",
+		// places
+		"0 1: jump 1": "to", "0 1: jump -1; ret 0": "to", "0 1: try 0 2; ret 0": "to", "0 1: try 0 -1; ret 0": "to", "0 1: ifnot 0 2; ret 0": "to", "0 1: ifnil 0 600; ret 0": "to",
+		// numbers
+		"0 1: num 0 1000001; ret 0": "number", "0 1: num 0 -1000001; ret 0": "number", "0 1: bool 0 2; ret 0": "number", "0 1: bool 0 -1; ret 0": "number",
+		// behind what goes on nowhere it is asked too
+		"0 1: ret 0; ret 1": "register X", "0 1: jump 2; num 1 0; ret 0": "register D",
+	} {
+		all = append(all, wrongPiece{text, toldPiece(text), faults})
+	}
+	for why, change := range map[string]func(*impl.Ins){
+		"op": func(i *impl.Ins) { i.Op = 0 }, "field D": func(i *impl.Ins) { i.Op, i.D = impl.OpEnd, 1 }, "field X": func(i *impl.Ins) { i.Op, i.X = impl.OpEnd, 1 }, "field Y": func(i *impl.Ins) { i.Op, i.Y = impl.OpEnd, 1 }, "field N": func(i *impl.Ins) { i.Op, i.N = impl.OpEnd, 1 }, "field T": func(i *impl.Ins) { i.Op, i.To = impl.OpEnd, 1 }, "field L": func(i *impl.Ins) { i.Op, i.L = impl.OpEnd, []int{1} }, "number": func(i *impl.Ins) { i.Op, i.N = impl.OpArith, 6 },
+	} {
+		p := toldPiece(triedText)
+		p.Ins[2] = impl.Ins{}
+		change(&p.Ins[2])
+		all = append(all, wrongPiece{why, p, why})
+	}
+	for _, op := range []int{0, 19, -1} {
+		p := toldPiece(triedText)
+		p.Ins[2].Op = op
+		all = append(all, wrongPiece{"Op " + strconv.Itoa(op), p, "op"})
+	}
+	return all
 }
 
 // oneLess and oneMore hold LiveOk of lists that have one register less, or more, than the least at each place; they tell how many of those held, and how many did not.

@@ -6,7 +6,6 @@ import (
 	"math/rand"
 	"reflect"
 	"slices"
-	"strconv"
 	"strings"
 	"testing"
 
@@ -551,45 +550,9 @@ func TestLiveOfLoopsOfManyTurns(t *testing.T) {
 
 // Each condition of a right Piece, broken alone: nothing lives, and no lists are right.
 func TestLiveOfWhatIsNotRight(t *testing.T) {
-	right := "2 5: try 2 6; add 3 0 1; end; move 4 3; jump 7; num 1 1; move 4 2; ret 4"
-	asPlainLive(t, toldPiece(right))
-	ret := toldList("ret 0")
-	for _, c := range []struct {
-		why    string
-		p      impl.Piece
-		faults string
-	}{
-		{"In -1", impl.Piece{In: -1, Regs: 1, Ins: ret}, "in"}, {"In past Regs", impl.Piece{In: 2, Regs: 1, Ins: ret}, "regs"}, {"In 401", impl.Piece{In: 401, Regs: 401, Ins: ret}, "regs"}, {"Regs 401", impl.Piece{Regs: 401, Ins: ret}, "regs"}, {"Regs -1", impl.Piece{Regs: -1, Ins: toldList("jump 0")}, "regs"}, {"Regs far too great", impl.Piece{Regs: math.MaxInt, Ins: ret}, "regs"},
-		{"In far too little", impl.Piece{In: math.MinInt, Regs: 1, Ins: ret}, "in"}, {"no Ins", impl.Piece{In: 1, Regs: 1}, "no ins"}, {"no Ins", impl.Piece{In: 1, Regs: 1, Ins: []impl.Ins{}}, "no ins"}, {"601 Ins", impl.Piece{Regs: 1, Ins: slices.Repeat(ret, 601)}, "many ins"}, {"very many Ins", impl.Piece{Regs: 1, Ins: slices.Repeat(ret, 5000)}, "many ins"},
-	} {
+	asPlainLive(t, toldPiece(triedText))
+	for _, c := range wrongPieces() {
 		livedNowhere(t, c.why, c.p, c.faults)
-	}
-	for text, faults := range map[string]string{
-		// the last one
-		"0 1: num 0 1": "last", "0 1: ret 0; num 0 1": "last", "0 1: raise 0": "last", "0 1: ifnot 0 0": "last", "0 1: end": "last", "0 1: try 0 0": "last", "0 1: call 0 0 0": "last",
-		// registers
-		"0 1: num 1 0; ret 0": "register D", "0 1: num -1 0; ret 0": "register D", "0 1: try 1 1; ret 0": "register D", "0 1: ret 1": "register X", "0 1: ret -1": "register X", "0 1: move 0 1; ret 0": "register X", "0 1: raise 7; ret 0": "register X", "0 1: ifnot 1 0; ret 0": "register X", "0 1: pair 0 0 1; ret 0": "register Y", "0 1: call 0 0 -1; ret 0": "register Y", "0 1: make 0 9 1; ret 0": "register L", "0 1: make 0 9 0 -1 0; ret 0": "register L", "0 0: ret 0": "register X",
-		// places
-		"0 1: jump 1": "to", "0 1: jump -1; ret 0": "to", "0 1: try 0 2; ret 0": "to", "0 1: try 0 -1; ret 0": "to", "0 1: ifnot 0 2; ret 0": "to", "0 1: ifnil 0 600; ret 0": "to",
-		// numbers
-		"0 1: num 0 1000001; ret 0": "number", "0 1: num 0 -1000001; ret 0": "number", "0 1: bool 0 2; ret 0": "number", "0 1: bool 0 -1; ret 0": "number",
-		// behind what goes on nowhere it is asked too
-		"0 1: ret 0; ret 1": "register X", "0 1: jump 2; num 1 0; ret 0": "register D",
-	} {
-		livedNowhere(t, text, toldPiece(text), faults)
-	}
-	for why, change := range map[string]func(*impl.Ins){
-		"op": func(i *impl.Ins) { i.Op = 0 }, "field D": func(i *impl.Ins) { i.Op, i.D = impl.OpEnd, 1 }, "field X": func(i *impl.Ins) { i.Op, i.X = impl.OpEnd, 1 }, "field Y": func(i *impl.Ins) { i.Op, i.Y = impl.OpEnd, 1 }, "field N": func(i *impl.Ins) { i.Op, i.N = impl.OpEnd, 1 }, "field T": func(i *impl.Ins) { i.Op, i.To = impl.OpEnd, 1 }, "field L": func(i *impl.Ins) { i.Op, i.L = impl.OpEnd, []int{1} }, "number": func(i *impl.Ins) { i.Op, i.N = impl.OpArith, 6 },
-	} {
-		p := toldPiece(right)
-		p.Ins[2] = impl.Ins{}
-		change(&p.Ins[2])
-		livedNowhere(t, why, p, why)
-	}
-	for _, op := range []int{0, 19, -1} {
-		p := toldPiece(right)
-		p.Ins[2].Op = op
-		livedNowhere(t, "Op "+strconv.Itoa(op), p, "op")
 	}
 }
 
@@ -669,7 +632,7 @@ func TestLiveOfEachChange(t *testing.T) {
 
 // Lists that are not as many, not ascending, of no registers; and such as break one of the rules alone.
 func TestLiveOkOfLists(t *testing.T) {
-	p := toldPiece("2 5: try 2 6; add 3 0 1; end; move 4 3; jump 7; num 1 1; move 4 2; ret 4")
+	p := toldPiece(triedText)
 	for told, faults := range map[string]string{
 		"0 1, 0 1, 3, 3, 4, 2, 2, 4": "", "0 1 2 3 4, 0 1 2 3 4, 0 1 2 3 4, 0 1 2 3 4, 0 1 2 3 4, 0 1 2 3 4, 0 1 2 3 4, 0 1 2 3 4": "",
 		// one more, where it comes from nowhere, and where it must come from somewhere
