@@ -880,6 +880,53 @@ func pieceChanges() map[string]func(*impl.Piece) {
 	return all
 }
 
+// changedCodes hands out fullerCode with each change of an instruction and of a Piece, and what it breaks; it fails when a condition of CodeOk is never broken alone, or too few are right.
+func changedCodes(t *testing.T, look func(why string, c impl.Code, faults []string)) {
+	t.Helper()
+	alone := map[string]int{}
+	right := 0
+	count := func(why string, c impl.Code) {
+		faults := codeFaults(c)
+		switch len(faults) {
+		case 0:
+			right++
+		case 1:
+			alone[faults[0]]++
+		}
+		look(why, c, faults)
+	}
+	whole := fullerCode()
+	for at, p := range piecesOf(&whole) {
+		for place := range p.Ins {
+			for why, change := range insChanges() {
+				c := fullerCode()
+				change(&piecesOf(&c)[at].Ins[place])
+				count(fmt.Sprint(why, " at ", place, " of ", at), c)
+			}
+		}
+		for why, change := range pieceChanges() {
+			c := fullerCode()
+			change(piecesOf(&c)[at])
+			count(fmt.Sprint(why, " of ", at), c)
+		}
+	}
+	turned, many := fullerCode(), fullerCode()
+	slices.Reverse(turned.Funs)
+	count("turned", turned)
+	many.Funs = slices.Repeat(many.Funs[2:], 201)
+	count("201 Funs", many)
+	count("nothing", impl.Code{})
+	count("whole", whole)
+	for _, fault := range []string{"lam", "lam order", "in", "main lam", "main in", "regs", "no ins", "many ins", "last", "op", "field D", "field X", "field Y", "field N", "field T", "field L", "to", "register D", "register X", "register Y", "register L", "number", "count", "no fun", "no fun in L", "order of L"} {
+		if alone[fault] == 0 {
+			t.Errorf("%q is never alone", fault)
+		}
+	}
+	if right < 300 {
+		t.Error("too few", right)
+	}
+}
+
 func piecesOf(c *impl.Code) []*impl.Piece {
 	var all []*impl.Piece
 	for at := range c.Funs {

@@ -1060,45 +1060,12 @@ func TestCodeOkOfTheLast(t *testing.T) {
 // Each change of each instruction and each Piece of a Code, held against the test's own.
 func TestCodeOkOfEachChange(t *testing.T) {
 	codeIs(t, "whole", fullerCode(), "")
-	alone := map[string]int{}
-	right := 0
-	look := func(why string, c impl.Code) {
-		faults := codeFaults(c)
+	changedCodes(t, func(why string, c impl.Code, faults []string) {
 		codeIs(t, why, c, strings.Join(faults, ", "))
-		if len(faults) == 1 {
-			alone[faults[0]]++
-		}
 		if len(faults) == 0 {
-			right++
 			asPlainRunCode(t, c, 100)
 		}
-	}
-	whole := fullerCode()
-	for at, p := range piecesOf(&whole) {
-		for place := range p.Ins {
-			for why, change := range insChanges() {
-				c := fullerCode()
-				change(&piecesOf(&c)[at].Ins[place])
-				look(fmt.Sprint(why, " at ", place, " of ", at), c)
-			}
-		}
-		for why, change := range pieceChanges() {
-			c := fullerCode()
-			change(piecesOf(&c)[at])
-			look(fmt.Sprint(why, " of ", at), c)
-		}
-	}
-	c := fullerCode()
-	slices.Reverse(c.Funs)
-	look("turned", c)
-	for _, fault := range []string{"lam", "lam order", "in", "main lam", "main in", "regs", "no ins", "many ins", "last", "op", "field D", "field X", "field Y", "field N", "field T", "field L", "to", "register D", "register X", "register Y", "register L", "number", "count", "no fun", "no fun in L", "order of L"} {
-		if alone[fault] == 0 {
-			t.Errorf("%q is never alone", fault)
-		}
-	}
-	if right < 300 {
-		t.Error("too few", right)
-	}
+	})
 }
 
 // Codes by chance, and the same ones with something spoilt.

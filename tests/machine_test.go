@@ -746,18 +746,11 @@ func TestMachineLimits(t *testing.T) {
 // Each condition of a Code, broken alone and with others.
 func TestMachineOfWhatIsNotRight(t *testing.T) {
 	t.Parallel()
-	alone := map[string]int{}
-	right := 0
-	look := func(why string, c impl.Code) {
-		faults := codeFaults(c)
+	changedCodes(t, func(why string, c impl.Code, faults []string) {
 		if len(faults) == 0 {
-			right++
 			asPlainMach(t, c, 20, 2, 100)
 			needsRoomAlone(t, why, c, 100, plainRoomFor(c, 100))
 			return
-		}
-		if len(faults) == 1 {
-			alone[faults[0]]++
 		}
 		for _, every := range []int{0, 1, 1001} {
 			if end, n := impl.RunMach(c, 50, every, 100); end != isNothing || n != 0 {
@@ -767,35 +760,7 @@ func TestMachineOfWhatIsNotRight(t *testing.T) {
 		if got := impl.Room(c, 100); got != -1 {
 			t.Errorf("%s: %v: Room is %d", why, faults, got)
 		}
-	}
-	whole := fullerCode()
-	for at, p := range piecesOf(&whole) {
-		for place := range p.Ins {
-			for why, change := range insChanges() {
-				c := fullerCode()
-				change(&piecesOf(&c)[at].Ins[place])
-				look(fmt.Sprint(why, " at ", place, " of ", at), c)
-			}
-		}
-		for why, change := range pieceChanges() {
-			c := fullerCode()
-			change(piecesOf(&c)[at])
-			look(fmt.Sprint(why, " of ", at), c)
-		}
-	}
-	many := fullerCode()
-	many.Funs = slices.Repeat(many.Funs[2:], 201)
-	look("201 Funs", many)
-	look("nothing", impl.Code{})
-	look("whole", whole)
-	for _, fault := range []string{"lam", "lam order", "in", "main lam", "main in", "count", "no fun", "no fun in L", "order of L", "regs", "no ins", "many ins", "last", "op", "field D", "field X", "field Y", "field N", "field T", "field L", "to", "register D", "register X", "register Y", "register L", "number"} {
-		if alone[fault] == 0 {
-			t.Errorf("%q is never alone", fault)
-		}
-	}
-	if right < 300 {
-		t.Error("too few", right)
-	}
+	})
 }
 
 func TestMachineArgumentsStay(t *testing.T) {
