@@ -66,7 +66,7 @@ func (w plainWork) run(fuel int) impl.Outcome {
 	return end
 }
 
-// stepsOf is how many steps of the fuel the term takes.
+// steps is how much of the fuel the term takes.
 func (w plainWork) steps() int {
 	if w.why != 0 {
 		return 0
@@ -269,12 +269,8 @@ func asNumber(t impl.Term) impl.Term {
 
 // allTexts are texts of programs of all sorts, found by chance, always the same ones, most of them good ones.
 func allTexts(n int) []string {
-	terms := slices.Concat(polyPrograms(n), typedTerms(n/2), loopTerms(n/2), knots(n/2), calledTerms(n/4))
-	for _, t := range foldTerms(n / 2) {
-		terms = append(terms, t)
-	}
 	var texts []string
-	for _, t := range terms {
+	for _, t := range slices.Concat(polyPrograms(n), typedTerms(n/2), loopTerms(n/2), knots(n/2), calledTerms(n/4), foldTerms(n/2)) {
 		if whole := asNumber(t); impl.Program(whole) {
 			texts = append(texts, plainTermText(whole))
 		}
